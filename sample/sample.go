@@ -175,12 +175,9 @@ func (s *Source) Known() []api.Type {
 			base := l[s.Int(len(l))]
 			t.Chain = append(t.Chain, base.Chain...)
 			for _, name := range base.Names {
-				_, kid, e := kind.Member(base, name)
-				if e != api.OK {
-					continue
-				}
+				_, kid, _ := kind.Member(base, name)
 				t.Names = append(t.Names, name)
-				t.Kids = append(t.Kids, kid)
+				t.Kids = append(t.Kids, kid) // a void, where it is too large: then the type is not valid
 			}
 		}
 		for range s.Int(3) {
