@@ -86,7 +86,7 @@ func (m *maker) data(t api.Type, around *scope, deep int) api.Data {
 		d.N = m.node(t.ID)
 	case api.TAny:
 		if m.Int(3) > 0 && deep > 0 {
-			d.Types = []api.Type{m.part(1, 0, nil, m.known)}
+			d.Types = []api.Type{m.valid(1, m.known)}
 			d.Kids = []api.Data{m.data(d.Types[0], nil, deep-1)}
 		}
 	case api.TType:

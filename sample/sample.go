@@ -50,8 +50,12 @@ type around struct {
 
 // Type returns a valid type that is no void and no exception, with value types of those that are known.
 func (s *Source) Type(known []api.Type) api.Type {
+	return s.valid(3, known)
+}
+
+func (s *Source) valid(deep int, known []api.Type) api.Type {
 	for {
-		if t := s.part(3, 0, nil, known); kind.Valid(t) {
+		if t := s.part(deep, 0, nil, known); kind.Valid(t) {
 			return t
 		}
 	}
