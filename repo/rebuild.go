@@ -143,10 +143,8 @@ func (b *builder) typ(t *api.Type) string {
 			return "Object"
 		}
 	}
-	for _, word := range [...]string{"void", "boolean", "octet", "char", "short", "long", "huge", "any", "type"} {
-		if k, _ := basic(word); k == t.Kind {
-			return word
-		}
+	if t.Kind < len(basics) && basics[t.Kind] != "" {
+		return basics[t.Kind]
 	}
 	return b.path(t.ID)
 }

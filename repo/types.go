@@ -1,6 +1,7 @@
 package repo
 
 import (
+	"slices"
 	"strconv"
 	"strings"
 
@@ -76,18 +77,12 @@ func (c *checker) typeOf(text string, tag bool) (api.Type, *entry) {
 	return t, r.names
 }
 
-// basic are the types of one word.
-func basic(word string) (int, bool) {
-	kinds := map[string]int{
-		"void": api.TVoid, "boolean": api.TBool, "octet": api.TOctet, "char": api.TChar, "short": api.TShort, "long": api.TLong, "huge": api.THuge, "any": api.TAny, "type": api.TType,
-	}
-	k, ok := kinds[word]
-	return k, ok
-}
+// basics are the types of one word, by kinds.
+var basics = [api.TType + 1]string{api.TVoid: "void", api.TBool: "boolean", api.TOctet: "octet", api.TChar: "char", api.TShort: "short", api.TLong: "long", api.THuge: "huge", api.TAny: "any", api.TType: "type"}
 
 func (r *typeReader) read() api.Type {
 	word := r.words[r.at]
-	if k, ok := basic(word); ok {
+	if k := slices.Index(basics[:], word); k >= 0 {
 		r.at++
 		return api.Type{Kind: k}
 	}
