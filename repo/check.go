@@ -7,6 +7,7 @@ import (
 	"strings"
 
 	"intermede/api"
+	"intermede/copies"
 	"intermede/idl"
 	"intermede/kind"
 )
@@ -136,7 +137,7 @@ func (c *checker) end(e *entry, i int, t api.Type) {
 		c.wrong(api.ErrLimit)
 	}
 	e.t, e.complete = t, true
-	c.defs[i].Type = cloneType(t)
+	c.defs[i].Type = copies.Type(t)
 }
 
 // in is a checker of what stands within something.
@@ -249,7 +250,7 @@ func (c *checker) attribute(e *entry, d *api.Decl) []api.Op {
 	c.opName(e, d)
 	ops := []api.Op{{Name: "_get_" + d.Name, Result: t}}
 	if !d.Flag {
-		ops = append(ops, api.Op{Name: "_set_" + d.Name, Params: []api.Param{{Name: "value", Way: api.DIn, Type: cloneType(t)}}})
+		ops = append(ops, api.Op{Name: "_set_" + d.Name, Params: []api.Param{{Name: "value", Way: api.DIn, Type: copies.Type(t)}}})
 	}
 	return ops
 }
@@ -303,7 +304,7 @@ func (c *checker) raises(d *api.Decl) []api.Type {
 			c.wrong(api.ErrLimit)
 		}
 		seen = append(seen, x)
-		l = append(l, cloneType(x.t))
+		l = append(l, copies.Type(x.t))
 	}
 	return l
 }
@@ -442,7 +443,7 @@ func (c *checker) constant(d *api.Decl) {
 	}
 	e, i := c.begin(d.Kind, d.Name, id)
 	e.inner, e.t, e.value, e.complete = nil, t, value, true
-	c.defs[i].Type, c.defs[i].Value = cloneType(t), value
+	c.defs[i].Type, c.defs[i].Value = copies.Type(t), value
 }
 
 func (c *checker) value(d *api.Decl) {

@@ -6,6 +6,7 @@ import (
 	"testing"
 
 	"intermede/api"
+	"intermede/copies"
 	"intermede/data"
 	"intermede/idl"
 	"intermede/kind"
@@ -311,7 +312,7 @@ func changes(t *testing.T, defs []api.Def) {
 			},
 		} {
 			l := append([]api.Def(nil), defs...)
-			l[i] = cloneDef(&l[i])
+			l[i] = copies.Def(l[i])
 			isConst := l[i].Kind == api.DConst && j == 7 // a bound may be another one
 			change(&l[i])
 			if !isConst && l[i].Type.Kind != api.TAlias && Valid(l) {

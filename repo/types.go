@@ -6,20 +6,10 @@ import (
 	"strings"
 
 	"intermede/api"
+	"intermede/copies"
 	"intermede/data"
 	"intermede/idl"
-	"intermede/kind"
 )
-
-// cloneType copies a valid type.
-func cloneType(t api.Type) api.Type {
-	if t.Kind == api.TAlias {
-		t.Kids = []api.Type{cloneType(t.Kids[0])}
-		return t
-	}
-	out, _ := kind.Bare(t)
-	return out
-}
 
 // bareType passes aliases.
 func bareType(t api.Type) api.Type {
@@ -170,7 +160,7 @@ func (r *typeReader) readPath() api.Type {
 	r.names = e
 	switch e.kind {
 	case api.DEnum, api.DAlias:
-		return cloneType(e.t)
+		return copies.Type(e.t)
 	case api.DInterface, api.DStruct, api.DUnion, api.DValue:
 		if r.tag {
 			r.wrong(api.ErrKind)
@@ -180,7 +170,7 @@ func (r *typeReader) readPath() api.Type {
 	}
 	switch {
 	case e.complete || e.kind == api.DInterface:
-		return cloneType(e.t)
+		return copies.Type(e.t)
 	case e.kind != api.DValue && r.seqs == 0:
 		r.wrong(api.ErrCircle)
 	}

@@ -5,6 +5,7 @@ import (
 	"strings"
 
 	"intermede/api"
+	"intermede/copies"
 	"intermede/idl"
 	"intermede/kind"
 	"intermede/repo"
@@ -227,5 +228,5 @@ func (r *typeReader) named() api.Type {
 		r.wrong = true
 		return api.Type{}
 	}
-	return cloneType(f.def.Type)
+	return copies.Type(f.def.Type)
 }
