@@ -417,7 +417,7 @@ func (n *node) eval(props []api.Prop, all map[string]operator) (v api.Prop, ok b
 		return truth(there), true
 	case n.op == "" && n.name != "":
 		v, ok = find(props, n.name)
-		v.Name = ""
+		v.Name, v.L = "", nil
 		return v, ok
 	case n.op == "":
 		return n.value, true
