@@ -5,7 +5,7 @@ import (
 	"strconv"
 
 	"intermede/api"
-	"intermede/data"
+	"intermede/body"
 	"intermede/hook"
 	"intermede/ref"
 	"intermede/servant"
@@ -29,10 +29,6 @@ type question struct {
 
 // refusal is what is panicked with where a call is refused at first.
 type refusal string
-
-func system(name string, done int) api.Outcome {
-	return api.Outcome{State: api.SSystem, ID: name, Done: done}
-}
 
 // Call makes a call.
 func (n *Node) Call(target, op string, args []api.Graph, road api.Road) (api.Outcome, api.Errno) {
@@ -70,7 +66,7 @@ follow:
 			break follow
 		}
 		if turns == maxTurns {
-			out = system("forwards", doneIf(ran))
+			out = body.System("forwards", doneIf(ran))
 			break follow
 		}
 		turns++
@@ -94,7 +90,7 @@ func (n *Node) first(target, op string, args []api.Graph, deep int) (q *question
 	defer func() {
 		if p := recover(); p != nil {
 			name, _ := p.(refusal)
-			q, out = nil, system(string(name), api.DoneNo)
+			q, out = nil, body.System(string(name), api.DoneNo)
 		}
 	}()
 	must := func(ok bool, name refusal) {
@@ -109,25 +105,11 @@ func (n *Node) first(target, op string, args []api.Graph, deep int) (q *question
 	o := n.objects[i]
 	known, there := n.ops[o.class.Interface()][op]
 	must(there, "operation")
-	must(n.fit(known, args), "arguments")
+	must(body.Fit(known, n.known, args), "arguments")
 	s, e := stub.WriteQuestion(known, n.known, args, false, 0)
-	must(e == api.OK && len(s) <= maxBytes, "limit")
+	must(e == api.OK && len(s) <= body.MaxBytes, "limit")
 	must(deep <= maxDeep, "deep")
 	return &question{object: o, op: known, args: args}, api.Outcome{}
-}
-
-// fit reports whether arguments are those of an operation.
-func (n *Node) fit(op api.Op, args []api.Graph) bool {
-	for _, p := range op.Params {
-		if p.Way == api.DOut {
-			continue
-		}
-		if len(args) == 0 || !data.Valid(p.Type, n.known, args[0]) {
-			return false
-		}
-		args = args[1:]
-	}
-	return len(args) == 0
 }
 
 // around runs the hooks of both sides around a call with an outcome.
@@ -141,7 +123,7 @@ func (n *Node) hooked(q *question, road api.Road, ran *bool) (out api.Outcome, t
 	client, server := n.around(api.End{Kind: aReply})
 	if client.Made && server.Made {
 		before, _ := hook.Client(n.client, nil, api.End{Kind: aReply})
-		out = n.limited(q, way(road).do(n, q, before.Contexts))
+		out = body.Limited(q.op, n.known, way(road).do(n, q, before.Contexts))
 		*ran = true
 		end := api.End{Kind: aReply}
 		if out.State != api.SResult {
@@ -156,30 +138,14 @@ func (n *Node) hooked(q *question, road api.Road, ran *bool) (out api.Outcome, t
 	if client.End.Kind == aTurn {
 		return api.Outcome{}, client.End.Target, true
 	}
-	return system("hook "+strconv.Itoa(client.End.Error), doneIf(*ran)), "", false
-}
-
-// limited is an outcome, or a system error where its answer is too long.
-func (n *Node) limited(q *question, out api.Outcome) api.Outcome {
-	var s string
-	var e api.Errno
-	switch out.State {
-	case api.SResult:
-		s, e = stub.WriteAnswer(q.op, n.known, out.Data, false, 0)
-	case api.SException:
-		s, e = stub.WriteException(q.op, n.known, out.ID, out.Data[0], false, 0)
-	}
-	if e != api.OK || len(s) > maxBytes {
-		return system("limit", api.DoneMaybe)
-	}
-	return out
+	return body.System("hook "+strconv.Itoa(client.End.Error), doneIf(*ran)), "", false
 }
 
 // run runs the method of an object, with the calls that it makes.
 func (n *Node) run(q *question, args []api.Graph) api.Outcome {
 	r, e := q.object.Begin(q.op.Name, args)
 	if e != api.OK {
-		return system("arguments", api.DoneNo)
+		return body.System("arguments", api.DoneNo)
 	}
 	for {
 		state, c, out := r.Go(api.MaxSteps)

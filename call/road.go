@@ -2,7 +2,7 @@ package call
 
 import (
 	"intermede/api"
-	"intermede/cdr"
+	"intermede/body"
 	"intermede/msg"
 	"intermede/stub"
 )
@@ -56,108 +56,33 @@ func (near) do(n *Node, q *question, contexts []api.Slot) api.Outcome {
 	return n.run(q, q.args)
 }
 
-// form writes and reads arguments, by a plan or dynamically.
-type form struct {
-	*stub.Plan
-	dynamic bool
-	op      api.Op
-	known   []api.Type
-	big     bool
-}
-
-func (f form) question(args []api.Graph) (string, api.Errno) {
-	if f.dynamic {
-		return stub.WriteQuestion(f.op, f.known, args, f.big, 0)
-	}
-	return f.WriteQuestion(args, f.big, 0)
-}
-
-func (f form) arguments(s string) ([]api.Graph, api.Errno) {
-	if f.dynamic {
-		args, _, e := stub.ReadQuestion(f.op, f.known, s, f.big, 0)
-		return args, e
-	}
-	args, _, e := f.ReadQuestion(s, f.big, 0)
-	return args, e
-}
-
-func (f form) answer(data []api.Graph) (string, api.Errno) {
-	if f.dynamic {
-		return stub.WriteAnswer(f.op, f.known, data, f.big, 0)
-	}
-	return f.WriteAnswer(data, f.big, 0)
-}
-
-func (f form) results(s string) ([]api.Graph, api.Errno) {
-	if f.dynamic {
-		data, _, e := stub.ReadAnswer(f.op, f.known, s, f.big, 0)
-		return data, e
-	}
-	data, _, e := f.ReadAnswer(s, f.big, 0)
-	return data, e
-}
-
-// body writes an outcome: its answer, its exception, or its name and how far it was done.
-func (f form) body(out api.Outcome) (string, api.Errno) {
-	switch out.State {
-	case api.SResult:
-		return f.answer(out.Data)
-	case api.SException:
-		return stub.WriteException(f.op, f.known, out.ID, out.Data[0], f.big, 0)
-	}
-	w := cdr.NewWriter(f.big, 0)
-	if e := w.Text(out.ID); e != api.OK {
-		return "", e
-	}
-	e := w.Long(out.Done)
-	return w.All(), e
-}
-
-// outcome reads what body wrote.
-func (f form) outcome(state int, s string) (out api.Outcome, e api.Errno) {
-	out.State = state
-	switch state {
-	case api.SResult:
-		out.Data, e = f.results(s)
-		return out, e
-	case api.SException:
-		id, g, _, e := stub.ReadException(f.op, f.known, s, f.big, 0)
-		out.ID, out.Data = id, []api.Graph{g}
-		return out, e
-	}
-	r := cdr.NewReader(s, f.big, 0)
-	out.ID, _ = r.Text()
-	out.Done, e = r.Long()
-	return out, e
-}
-
 func (f far) do(n *Node, q *question, contexts []api.Slot) api.Outcome {
 	plan, _ := stub.Compile(q.op, n.known)
-	form := form{plan, f.Dynamic, q.op, n.known, f.Big}
-	lost := system("limit", api.DoneMaybe) // what can't be carried was asked for its length before
-	body, e := form.question(q.args)
+	form := body.Form{Plan: plan, Dynamic: f.Dynamic, Big: f.Big, Op: q.op, Known: n.known}
+	lost := body.System("limit", api.DoneMaybe) // what can't be carried was asked for its length before
+	bytes, e := form.Question(q.args)
 	if e != api.OK {
 		return lost
 	}
-	m := api.Message{Kind: api.MRequest, Big: f.Big, Number: 1, Answer: !q.op.Oneway, Key: objectKey(q.object.number), Op: q.op.Name, Contexts: travelling(contexts), Body: body}
+	m := api.Message{Kind: api.MRequest, Big: f.Big, Number: 1, Answer: !q.op.Oneway, Key: objectKey(q.object.number), Op: q.op.Name, Contexts: travelling(contexts), Body: bytes}
 	m, e = carried(m, f.Size)
 	if e != api.OK {
 		return lost
 	}
-	args, e := form.arguments(m.Body)
+	args, e := form.Arguments(m.Body)
 	if e != api.OK {
 		return lost
 	}
-	out := n.limited(q, n.run(q, args))
-	body, e = form.body(out)
+	out := body.Limited(q.op, n.known, n.run(q, args))
+	bytes, e = form.Outcome(out)
 	if e != api.OK {
 		return lost
 	}
-	m, e = carried(api.Message{Kind: api.MReply, Big: f.Big, Number: m.Number, State: out.State, Body: body}, f.Size)
+	m, e = carried(api.Message{Kind: api.MReply, Big: f.Big, Number: m.Number, State: out.State, Body: bytes}, f.Size)
 	if e != api.OK {
 		return lost
 	}
-	out, e = form.outcome(m.State, m.Body)
+	out, e = form.Read(m.State, m.Body)
 	if e != api.OK {
 		return lost
 	}
