@@ -99,7 +99,7 @@ func (r *reader) binding(l string) bool {
 		return false
 	}
 	name, e := Parse(words[1])
-	if e != api.OK || len(name) != 1 || Compare(name[0], r.last) <= 0 || r.s.count == maxBindings {
+	if e != api.OK || len(name) != 1 || order(name[0], r.last) <= 0 || r.s.count == maxBindings {
 		return false
 	}
 	var x bound

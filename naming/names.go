@@ -20,13 +20,17 @@ func isPart(s string) bool {
 	return len(s) <= api.MaxName
 }
 
+func isComponent(c api.Component) bool {
+	return isPart(c.ID) && isPart(c.Kind) && c != (api.Component{})
+}
+
 // Valid reports whether components are a name.
 func Valid(n []api.Component) bool {
 	if len(n) < 1 || len(n) > maxComponents {
 		return false
 	}
 	for _, c := range n {
-		if !isPart(c.ID) || !isPart(c.Kind) || c == (api.Component{}) {
+		if !isComponent(c) {
 			return false
 		}
 	}
@@ -103,7 +107,15 @@ func Parse(text string) ([]api.Component, api.Errno) {
 	return n, api.OK
 }
 
-// Compare orders components by their IDs, then by their kinds.
+// Compare orders components by their IDs, then by their kinds; what is no component has no order.
 func Compare(a, b api.Component) int {
+	if !isComponent(a) || !isComponent(b) {
+		return 0
+	}
+	return order(a, b)
+}
+
+// order also takes the empty component, which stands ahead of all.
+func order(a, b api.Component) int {
 	return cmp.Or(strings.Compare(a.ID, b.ID), strings.Compare(a.Kind, b.Kind))
 }

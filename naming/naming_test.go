@@ -54,6 +54,14 @@ func TestText(t *testing.T) {
 	if Compare(a, a) != 0 || Compare(a, b) != -1 || Compare(c, b) != 1 {
 		t.Error("Compare")
 	}
+	for i, x := range []api.Component{{}, {ID: " "}, {ID: "a", Kind: "\x7f"}, {Kind: "é"}, {ID: long + "x"}, {ID: "a", Kind: long + "x"}} {
+		if Compare(x, a) != 0 || Compare(a, x) != 0 || Compare(x, c) != 0 || Compare(c, x) != 0 {
+			t.Error("Compare of what is no component", i)
+		}
+	}
+	if Compare(api.Component{Kind: "~"}, a) != -1 || Compare(a, api.Component{ID: long, Kind: long}) != -1 {
+		t.Error("Compare")
+	}
 }
 
 func rest(r api.Rest, e api.Errno) string { return fmt.Sprintf("%d.%d %d", r.Done, r.Why, e) }

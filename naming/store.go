@@ -45,7 +45,7 @@ type bindings map[api.Component]bound
 // sorted goes through the components of a context, in their order.
 func (b bindings) sorted() iter.Seq2[api.Component, bound] {
 	return func(yield func(api.Component, bound) bool) {
-		for _, c := range slices.SortedFunc(maps.Keys(b), Compare) {
+		for _, c := range slices.SortedFunc(maps.Keys(b), order) {
 			if !yield(c, b[c]) {
 				return
 			}
