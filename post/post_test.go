@@ -89,7 +89,14 @@ func TestLate(t *testing.T) {
 	p.Put(api.Letter{Tries: 3, Until: 50}, 41)
 	steps(t, []step{{next(p, 50), "5"}, {text(0, p.Done(5, 51, false, "")), "0"}, {text(p.State(5, 51)), "5"}})
 	p.Put(api.Letter{Tries: 1, Until: 60}, 51)
-	steps(t, []step{{next(p, 60), "6"}, {text(0, p.Done(6, 61, false, "")), "0"}, {text(p.State(6, 61)), "4"}})
+	steps(t, []step{{next(p, 60), "6"}, {text(0, p.Done(6, 61, false, "")), "0"}, {text(p.State(6, 61)), "5"}, {text(p.Poll(6, 61)), "!16"}})
+	p.Put(api.Letter{Tries: 1, Until: 70, Back: true}, 61)
+	steps(t, []step{{next(p, 70), "7"}, {text(0, p.Done(7, 70, false, "")), "0"}, {text(p.State(7, 70)), "4"}, {text(p.Poll(7, 71)), "!10"}, {text(p.Backs(71)), "[{7 4 }]"}})
+	p.Put(api.Letter{Tries: 1, Until: 71, Back: true}, 71)
+	steps(t, []step{{next(p, 71), "8"}, {text(0, p.Done(8, 72, false, "")), "0"}, {text(p.Backs(72)), "[{8 5 }]"}})
+	if put, answered, given, late, withdrawn := p.Count(); put != 8 || answered != 1 || given != 1 || late != 6 || withdrawn != 0 {
+		t.Error(put, answered, given, late, withdrawn)
+	}
 	end := made(t, 1, 9, 10)
 	end.Put(api.Letter{Tries: 3}, 0)
 	end.Next(api.MaxTime - 5)
