@@ -23,29 +23,30 @@ const (
 	over
 )
 
-// asked asks for a certainty, and for marks that can be.
-func asked(certainty int, marks []int) api.Errno {
-	if !within(certainty, whenSent, whenDone) {
-		return api.ErrRange
-	}
+func isCertainty(certainty int) bool { return within(certainty, whenSent, whenDone) }
+
+// canBe reports whether marks can be those of a call.
+func canBe(marks []int) bool {
 	for i, m := range marks {
 		before := marks[:i]
 		switch {
 		case !within(m, handed, over) || slices.Contains(before, m),
 			(m == reached || m == finished) && !slices.Contains(before, m-1),
 			slices.Contains(before, broke) && m != reached && m != finished:
-			return api.ErrInvalid
+			return false
 		}
 	}
-	return api.OK
+	return true
 }
 
-// Returns tells behind how many marks a caller goes on, and what it learns.
+// Returns tells behind how many marks a caller goes on, and what it learns. It alone asks for the certainty before the marks.
 func Returns(certainty int, marks []int) (at int, state, done int, e api.Errno) {
-	if e := asked(certainty, marks); e != api.OK {
-		return 0, 0, 0, e
-	}
-	if certainty == atOnce {
+	switch {
+	case !isCertainty(certainty):
+		return 0, 0, 0, api.ErrRange
+	case !canBe(marks):
+		return 0, 0, 0, api.ErrInvalid
+	case certainty == atOnce:
 		return 0, api.SResult, 0, api.OK
 	}
 	awaited := [...]int{whenSent: handed, whenReached: reached, whenDone: finished}[certainty]
@@ -65,10 +66,11 @@ func Returns(certainty int, marks []int) (at int, state, done int, e api.Errno) 
 
 // Final tells how far a call was done in truth.
 func Final(certainty int, marks []int) (done int, e api.Errno) {
-	if e := asked(certainty, marks); e != api.OK {
-		return 0, e
-	}
 	switch {
+	case !canBe(marks):
+		return 0, api.ErrInvalid
+	case !isCertainty(certainty):
+		return 0, api.ErrRange
 	case slices.Contains(marks, finished):
 		return api.DoneYes, api.OK
 	case slices.Contains(marks, reached):

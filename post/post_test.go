@@ -192,7 +192,7 @@ func TestReturns(t *testing.T) {
 		final           int
 	}{
 		{2, nil, 0, 0, 0, 0, 1}, {2, []int{1, 2, 3}, 0, 0, 0, 0, 0}, {1, []int{1}, 1, 0, 0, 0, 1}, {1, nil, 0, 0, 0, api.ErrNone, 1}, {1, []int{4}, 1, 2, 1, 0, 1}, {1, []int{5, 1}, 1, 2, 1, 0, 1}, {3, []int{1, 2}, 2, 0, 0, 0, 2}, {3, []int{1}, 0, 0, 0, api.ErrNone, 1}, {3, []int{1, 4, 2}, 2, 2, 2, 0, 2}, {3, []int{1, 5, 2, 3}, 2, 2, 2, 0, 0}, {4, []int{1, 2, 3}, 3, 0, 0, 0, 0}, {4, []int{1, 2, 4, 3}, 3, 2, 2, 0, 0}, {4, []int{1, 2}, 0, 0, 0, api.ErrNone, 2}, {4, []int{5, 4}, 1, 2, 1, 0, 1},
-		{0, []int{9}, 0, 0, 0, api.ErrRange, 0}, {5, nil, 0, 0, 0, api.ErrRange, 0}, {1, []int{0}, 0, 0, 0, api.ErrInvalid, 0}, {1, []int{6}, 0, 0, 0, api.ErrInvalid, 0}, {1, []int{1, 1}, 0, 0, 0, api.ErrInvalid, 0}, {1, []int{2, 1}, 0, 0, 0, api.ErrInvalid, 0}, {1, []int{1, 3, 2}, 0, 0, 0, api.ErrInvalid, 0}, {1, []int{4, 1}, 0, 0, 0, api.ErrInvalid, 0}, {1, []int{1, 4, 5}, 0, 0, 0, api.ErrInvalid, 0},
+		{0, []int{9}, 0, 0, 0, api.ErrRange, 0}, {0, []int{1, 3}, 0, 0, 0, api.ErrRange, 0}, {5, []int{1, 2}, 0, 0, 0, api.ErrRange, 0}, {-1, []int{1}, 0, 0, 0, api.ErrRange, 0}, {5, nil, 0, 0, 0, api.ErrRange, 0}, {1, []int{0}, 0, 0, 0, api.ErrInvalid, 0}, {1, []int{6}, 0, 0, 0, api.ErrInvalid, 0}, {1, []int{1, 1}, 0, 0, 0, api.ErrInvalid, 0}, {1, []int{2, 1}, 0, 0, 0, api.ErrInvalid, 0}, {1, []int{1, 3, 2}, 0, 0, 0, api.ErrInvalid, 0}, {1, []int{4, 1}, 0, 0, 0, api.ErrInvalid, 0}, {1, []int{1, 4, 5}, 0, 0, 0, api.ErrInvalid, 0},
 	} {
 		at, state, done, e := Returns(c.certainty, c.marks)
 		if at != c.at || state != c.state || done != c.done || e != c.e {
@@ -201,6 +201,9 @@ func TestReturns(t *testing.T) {
 		want := c.e
 		if want == api.ErrNone {
 			want = api.OK
+		}
+		if c.certainty == 0 {
+			want = api.ErrInvalid // its marks can't be either
 		}
 		final, e := Final(c.certainty, c.marks)
 		if final != c.final || e != want {
