@@ -128,6 +128,8 @@ func wordEnd(s string, i int) int {
 // node is an expression: an operator with its sides (a sign has no right one), a property, or a value.
 type node struct {
 	op          string
+	level       int // of the operator
+	pairs       int // of parentheses around it in the text
 	left, right *node
 	name        string
 	value       api.Prop
@@ -142,6 +144,7 @@ const (
 	sumLevel
 	productLevel
 	signLevel
+	operandLevel
 )
 
 // operator is how strongly an operator binds, and what it makes of two values; both are there and of one kind.
@@ -220,8 +223,6 @@ type parser struct {
 	words     []string
 	at        int
 	operators map[string]operator
-	deep      int
-	over      bool
 }
 
 func (p *parser) is(word string) bool {
@@ -230,11 +231,6 @@ func (p *parser) is(word string) bool {
 		return true
 	}
 	return false
-}
-
-func (p *parser) deeper() {
-	p.deep++
-	p.over = p.over || p.deep > maxDeep
 }
 
 // binary reads operands of operators of a level, from the left; comparisons do not group.
@@ -253,7 +249,7 @@ func (p *parser) binary(level int) *node {
 			break
 		}
 		p.at++
-		left = &node{op: op, left: left, right: p.binary(level + 1)}
+		left = &node{op: op, level: level, left: left, right: p.binary(level + 1)}
 		if level == compareLevel {
 			break
 		}
@@ -265,28 +261,21 @@ func (p *parser) not() *node {
 	if !p.is("not") {
 		return p.binary(notLevel + 1)
 	}
-	p.deeper()
-	n := &node{op: "not", left: p.not()}
-	p.deep--
-	return n
+	return &node{op: "not", level: notLevel, left: p.not()}
 }
 
 func (p *parser) sign() *node {
 	if !p.is("-") {
 		return p.operand()
 	}
-	p.deeper()
-	n := &node{op: "-", left: p.sign()}
-	p.deep--
-	return n
+	return &node{op: "-", level: signLevel, left: p.sign()}
 }
 
 func (p *parser) operand() *node {
 	if p.is("(") {
-		p.deeper()
 		n := p.binary(orLevel)
-		p.deep--
 		must(p.is(")"))
+		n.pairs++
 		return n
 	}
 	must(p.at < len(p.words))
@@ -298,7 +287,7 @@ func (p *parser) operand() *node {
 	case word == "exist":
 		must(p.at < len(p.words) && isPropName(p.words[p.at]))
 		p.at++
-		return &node{op: "exist", name: p.words[p.at-1]}
+		return &node{op: "exist", level: operandLevel, name: p.words[p.at-1]}
 	case word[0] == '\'':
 		return &node{value: api.Prop{Kind: aText, S: unescaped(word[1 : len(word)-1])}}
 	case isDigit(word[0]):
@@ -318,12 +307,29 @@ func escaped(s string) string {
 	return strings.NewReplacer(`'`, `\'`, `\`, `\\`).Replace(s)
 }
 
+// deep returns how deep an expression is nested in signs and parentheses, at a place where only operators of a level, and those that bind more strongly, stand without parentheses. The pair that Show writes around an operator counts only at a place that asks for it: so Show's text is nested no deeper than the text.
+func (n *node) deep(level int) int {
+	deep := n.pairs
+	if n.op != "" && n.pairs > 0 && n.level >= level {
+		deep--
+	}
+	switch {
+	case n.left == nil:
+		return deep
+	case n.right == nil:
+		return deep + 1 + n.left.deep(n.level)
+	case n.level == compareLevel: // these do not group
+		return deep + max(n.left.deep(n.level+1), n.right.deep(n.level+1))
+	}
+	return deep + max(n.left.deep(n.level), n.right.deep(n.level+1))
+}
+
 // parse reads an expression of words.
 func parse(l []string) *node {
 	p := &parser{words: l, operators: operators()}
 	n := p.binary(orLevel)
 	must(p.at == len(l))
-	if p.over {
+	if n.deep(orLevel) > maxDeep {
 		panic(wrong{api.ErrLimit})
 	}
 	return n

@@ -59,10 +59,70 @@ func TestShow(t *testing.T) {
 	for i, c := range []struct {
 		s string
 		e api.Errno
-	}{{nest(40, "(", "1", ")"), 0}, {nest(41, "(", "1", ")"), api.ErrLimit}, {nest(40, "-", "1", ""), 0}, {nest(41, "-", "1", ""), api.ErrLimit}, {nest(41, "not ", "true", ""), api.ErrLimit}, {nest(41, "(", "1", ")") + ")", api.ErrSyntax}, {strings.Repeat(" ", 1999) + "1", 0}, {strings.Repeat(" ", 2000) + "1", api.ErrLong}} {
-		if _, e := Show(c.s); e != c.e {
+	}{{nest(40, "(", "1", ")"), 0}, {nest(41, "(", "1", ")"), api.ErrLimit}, {nest(40, "-", "1", ""), 0}, {nest(41, "-", "1", ""), api.ErrLimit}, {nest(41, "not ", "true", ""), api.ErrLimit}, {nest(41, "(", "1", ")") + ")", api.ErrSyntax}, {nest(40, "(", "a+1", ")"), 0}, {nest(41, "(", "a+1", ")"), 0}, {nest(42, "(", "a+1", ")"), api.ErrLimit}, {nest(41, "1+(", "a", ")"), api.ErrLimit}, {nest(40, "1+(", "a", ")"), 0}, {nest(40, "1+(", "a+1", ")"), 0}, {nest(41, "1+(", "a+1", ")"), api.ErrLimit}, {nest(333, "1+", "a", ""), 0}, {nest(200, "(", "a", "+1)"), 0}, {nest(20, "-(1+", "a", ")"), 0}, {nest(21, "-(1+", "a", ")"), api.ErrLimit}, {nest(39, "-(", "a", ")"), 0}, {nest(40, "-(", "a", ")"), api.ErrLimit}, {nest(40, "not ", "(exist a)", ""), 0}, {nest(40, "not ", "((exist a))", ""), api.ErrLimit}, {nest(41, "(", "b", "==b)"), 0}, {nest(42, "(", "b", "==b)"), api.ErrLimit}, {strings.Repeat(" ", 1999) + "1", 0}, {strings.Repeat(" ", 2000) + "1", api.ErrLong}} {
+		shown, e := Show(c.s)
+		if e != c.e || ValidExpr(c.s) != (c.e == api.OK) {
 			t.Error(i, e)
 		}
+		sameAs(t, c.s, shown)
+	}
+}
+
+// sameAs asks that Show of what it shows of a text is that, with the same value, if it is not too long.
+func sameAs(t *testing.T, text, shown string) {
+	t.Helper()
+	if shown == "" || len(shown) > maxExpr {
+		return
+	}
+	p := props(num("a", 7), flag("b", 1), word("c", "x"))
+	if again, e := Show(shown); again != shown || e != api.OK {
+		t.Errorf("Show of Show of %q: %d", text, e)
+	}
+	v, ok, e := Value(text, p)
+	w, ok2, e2 := Value(shown, p)
+	if !reflect.DeepEqual(v, w) || ok != ok2 || e != api.OK || e2 != api.OK {
+		t.Errorf("value of Show of %q: %d %d", text, e, e2)
+	}
+}
+
+// deepExpr returns an expression nested about so deep, with needless parentheses here and there.
+func deepExpr(s *sample.Source, deep int) string {
+	x := []string{"a", "b", "1", "exist c"}[s.Int(4)]
+	for range deep {
+		op := []string{"or", "and", "==", "+", "*"}[s.Int(5)]
+		switch s.Int(6) {
+		case 0:
+			x = "(" + x + ")"
+		case 1:
+			x = "(not " + x + ")"
+		case 2:
+			x = "-(" + x + ")"
+		case 3:
+			x = "(" + x + ") " + op + " a"
+		case 4:
+			x = "a " + op + " (" + x + ")"
+		case 5:
+			x += " " + []string{"or", "and"}[s.Int(2)] + " a"
+		}
+	}
+	return x
+}
+
+func TestDeep(t *testing.T) {
+	s := sample.New(162)
+	over := 0
+	for range 3000 {
+		text := deepExpr(s, 30+s.Int(60))
+		shown, e := Show(text)
+		if e == api.ErrLimit {
+			over++
+		} else if e != api.OK {
+			t.Fatal(text, e)
+		}
+		sameAs(t, text, shown)
+	}
+	if over < 300 || over > 2700 {
+		t.Error(over)
 	}
 }
 
