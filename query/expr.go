@@ -131,6 +131,8 @@ func signs() map[string]operator {
 // node is an expression: an operator with its sides (a sign has no right one), count or its like (count has no side), a field, or a value.
 type node struct {
 	op          string
+	level       int // of the operator
+	pairs       int // of parentheses around it in the text
 	do          operator
 	whole       bool // it is of all combinations together
 	left, right *node
@@ -179,6 +181,21 @@ func (n *node) show(b *strings.Builder) {
 	default:
 		b.WriteString(showValue(n.value))
 	}
+}
+
+// deep returns how deep an expression is nested in signs, parentheses, and sum and its like, at a place where only operators of a level, and those that bind more strongly, stand without parentheses. The pair that Show writes around an operator counts only at a place that asks for it: so Show's text is nested no deeper than the text.
+func (n *node) deep(level int) int {
+	deep := n.pairs
+	if n.op != "" && !n.whole && n.pairs > 0 && n.level >= level {
+		deep--
+	}
+	switch {
+	case n.left == nil:
+		return deep
+	case n.right == nil:
+		return deep + 1 + n.left.deep(n.level)
+	}
+	return deep + max(n.left.deep(n.level), n.right.deep(n.level+1))
 }
 
 // any reports whether something holds for a part of an expression.

@@ -33,8 +33,7 @@ type parser struct {
 	text    string
 	at, far int
 	plain   bool // an expression for one row alone
-	deep    int
-	over    bool
+	over    bool // something is nested too deep
 	levels  [][]string
 	two     map[string]operator
 	one     map[string]operator
@@ -152,24 +151,20 @@ func (p *parser) quoted() (string, bool) {
 	return s, true
 }
 
-// deeper reads something a level deeper.
-func (p *parser) deeper(read func() *node) *node {
-	p.deep++
-	p.over = p.over || p.deep > maxDeep
-	n := read()
-	p.deep--
+// expr reads an expression that stands in no other one.
+func (p *parser) expr() *node {
+	n := p.binary(0)
+	p.over = p.over || n.deep(0) > maxDeep
 	return n
 }
-
-func (p *parser) expr() *node { return p.binary(0) }
 
 // binary reads operands of the operators of a level, from the left.
 func (p *parser) binary(level int) *node {
 	switch level {
 	case notLevel:
-		return p.sign("not", func() *node { return p.binary(notLevel + 1) })
+		return p.sign("not", level, func() *node { return p.binary(notLevel + 1) })
 	case len(p.levels):
-		return p.sign("-", p.operand)
+		return p.sign("-", level, p.operand)
 	}
 	left := p.binary(level + 1)
 	for {
@@ -177,22 +172,23 @@ func (p *parser) binary(level int) *node {
 		if !ok {
 			return left
 		}
-		left = &node{op: op, do: p.two[op], left: left, right: p.binary(level + 1)}
+		left = &node{op: op, level: level, do: p.two[op], left: left, right: p.binary(level + 1)}
 	}
 }
 
 // sign reads something that may have a sign before it, also several times.
-func (p *parser) sign(sign string, inner func() *node) *node {
+func (p *parser) sign(sign string, level int, inner func() *node) *node {
 	if !p.is(sign) {
 		return inner()
 	}
-	return &node{op: sign, do: p.one[sign], left: p.deeper(func() *node { return p.sign(sign, inner) })}
+	return &node{op: sign, level: level, do: p.one[sign], left: p.sign(sign, level, inner)}
 }
 
 func (p *parser) operand() *node {
 	if p.is("(") {
-		n := p.deeper(p.expr)
+		n := p.binary(0)
 		p.need(")")
+		n.pairs++
 		return n
 	}
 	if n, ok := p.number(); ok {
@@ -227,7 +223,7 @@ func (p *parser) whole(op string) *node {
 	if op == "count" {
 		p.need("*")
 	} else {
-		n.left = p.deeper(p.expr)
+		n.left = p.binary(0)
 	}
 	p.need(")")
 	return n

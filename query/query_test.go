@@ -525,6 +525,84 @@ func TestShown(t *testing.T) {
 	}
 }
 
+// sameAs asks that Show of what it shows of a query is that, and tells the same rows, if it is not too long.
+func sameAs(t *testing.T, text string) api.Errno {
+	t.Helper()
+	show, e := Show(text)
+	if e != api.OK || len(show) > maxText {
+		return e
+	}
+	if again, e := Show(show); again != show || e != api.OK {
+		t.Errorf("Show of Show of %q: %d", text, e)
+	}
+	s, _ := New(aList, nil)
+	s.Put([]api.Prop{{Name: "a", Kind: 1, N: 7}, {Name: "b", Kind: 3, N: 1}})
+	s.Put([]api.Prop{{Name: "a", Kind: 1}})
+	one := shown(Run(text, []string{"t"}, []*Set{s}))
+	if two := shown(Run(show, []string{"t"}, []*Set{s})); one != two || strings.HasPrefix(one, "!") {
+		t.Errorf("rows of Show of %q: %s instead of %s", text, two, one)
+	}
+	return e
+}
+
+func TestNested(t *testing.T) {
+	for i, c := range []struct {
+		n              int
+		open, in, shut string
+		want           api.Errno
+	}{
+		{40, "-", "a", "", 0}, {41, "-", "a", "", 4}, {40, "not ", "b", "", 0}, {41, "not ", "b", "", 4}, {600, "a+", "a", "", 0}, {200, "(", "a", "+a)", 0}, {39, "-(", "a", ")", 0}, {40, "-(", "a", ")", 4}, {40, "(", "a", ")", 0}, {41, "(", "a", ")", 4}, {41, "(", "a+a", ")", 0}, {42, "(", "a+a", ")", 4}, {40, "a+(", "a", ")", 0}, {41, "a+(", "a", ")", 4}, {40, "a-(", "a-1", ")", 0}, {41, "a-(", "a-1", ")", 4}, {100, "(", "a", "=a)", 0}, {41, "(a=", "a", ")", 0}, {42, "(a=", "a", ")", 4}, {41, "a or not ", "b", "", 0}, {20, "not (b or ", "b", ")", 0}, {21, "not (b or ", "b", ")", 4}, {40, "sum(", "a", ")", 0}, {41, "sum(", "a", ")", 4}, {20, "sum(-", "a", ")", 0}, {20, "sum(a*", "a", ")", 0}, {20, "(sum(", "a", "))", 0}, {21, "(sum(", "a", "))", 4}, {40, "-", "count(*)", "", 0},
+	} {
+		x := strings.Repeat(c.open, c.n) + c.in + strings.Repeat(c.shut, c.n)
+		for _, text := range []string{"select * from t where " + x, "select a as c, " + x + " as d from t", "select * from t order by " + x + " down"} {
+			if e := sameAs(t, text); e != c.want {
+				t.Errorf("%d: %q: %d", i, text, e)
+			}
+		}
+	}
+}
+
+// deepExpr returns an expression nested about so deep, with needless parentheses here and there.
+func deepExpr(r *sample.Source, deep int) string {
+	x := []string{"a", "b", "1", "null"}[r.Int(4)]
+	for range deep {
+		op := []string{"or", "and", "=", "has", "+", "%"}[r.Int(6)]
+		switch r.Int(7) {
+		case 0:
+			x = "(" + x + ")"
+		case 1:
+			x = "(not " + x + ")"
+		case 2:
+			x = "-(" + x + ")"
+		case 3:
+			x = "(" + x + ") " + op + " a"
+		case 4:
+			x = "a " + op + " (" + x + ")"
+		case 5:
+			x += " " + op + " a"
+		case 6:
+			x = "least(" + x + ")"
+		}
+	}
+	return x
+}
+
+func TestDeep(t *testing.T) {
+	r := sample.New(321)
+	over := 0
+	for range 3000 {
+		e := sameAs(t, "select "+deepExpr(r, 30+r.Int(60))+" as x from t")
+		if e == api.ErrLimit {
+			over++
+		} else if e != api.OK {
+			t.Fatal(e)
+		}
+	}
+	if over < 300 || over > 2700 {
+		t.Error(over)
+	}
+}
+
 // TestFirstByte asks that what stands before the first wrong byte lacks something at most, and that what is wrong stays so.
 func TestFirstByte(t *testing.T) {
 	r := sample.New(320)
