@@ -82,14 +82,17 @@ func (r *reader) within(least, most int) int {
 	return n
 }
 
-// count takes a number of things that have a byte each at least.
-func (r *reader) count(most int) int {
-	n := r.within(0, most)
+// many takes a number of things that have a byte each at least, between two numbers.
+func (r *reader) many(least, most int) int {
+	n := r.within(least, most)
 	if n > r.Left() {
 		panic(stop(r.Place() - 4))
 	}
 	return n
 }
+
+// count takes a number of things, of which there may be none.
+func (r *reader) count(most int) int { return r.many(0, most) }
 
 // text takes a text of at most so many bytes, and tells the place of its number.
 func (r *reader) text(most int) (s string, place int) {
@@ -295,7 +298,7 @@ func (r *reader) chain(t *api.Type, first bool) []api.Data {
 		most = len(t.Chain)
 	}
 	var kids []api.Data
-	for i := range r.within(len(t.Chain), most) {
+	for i := range r.many(len(t.Chain), most) {
 		n := r.within(0, api.MaxBytes)
 		from := r.Place()
 		if n > r.Left() {

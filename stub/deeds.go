@@ -259,6 +259,15 @@ func (r *reading) within(least, most int) int {
 	return n
 }
 
+// many takes a number of things that have a byte each at least, between two numbers.
+func (r *reading) many(least, most int) int {
+	n := r.within(least, most)
+	if n > r.Left() {
+		panic(stop(r.Place() - 4))
+	}
+	return n
+}
+
 // text takes a text of at most so many bytes, and tells the place of its number.
 func (r *reading) text(most int) (s string, place int) {
 	n := r.within(1, most+1)
@@ -348,11 +357,7 @@ func (r *reading) elements(s *step, d *api.Data, n, level int) {
 }
 
 func (r *reading) sequence(s *step, d *api.Data, level int) {
-	n := r.within(0, bound(s.t))
-	if n > r.Left() {
-		panic(stop(r.Place() - 4))
-	}
-	r.elements(s, d, n, level)
+	r.elements(s, d, r.many(0, bound(s.t)), level)
 }
 
 func (r *reading) union(s *step, d *api.Data, level int) {
@@ -426,7 +431,7 @@ func (r *reading) newValue(id string) int {
 	}
 	kids := make([]api.Data, len(v.parts))
 	from := 0
-	for i := range r.within(len(v.t.Chain), most) {
+	for i := range r.many(len(v.t.Chain), most) {
 		length := r.within(0, api.MaxBytes)
 		start := r.Place()
 		if length > r.Left() {

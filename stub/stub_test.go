@@ -341,6 +341,34 @@ func change(s *sample.Source, b string) string {
 	return string(l)
 }
 
+// TestParts reads values whose number of parts is above the bytes that are left: it is wrong at its place.
+func TestParts(t *testing.T) {
+	v, w := typ(t, "value V[v 0]{}"), typ(t, "value W[v 0,w 1 t]{a octet;}")
+	known := []api.Type{v, w}
+	op := api.Op{Name: "f", Result: v, Params: []api.Param{{Name: "a", Way: api.DIn, Type: v}}, Raises: []api.Type{typ(t, "except x X{a value V[v 0]{};}")}}
+	p, _ := stub.Compile(op, known)
+	head := func(id string, parts string) string {
+		return "\x00\x00\x00\x01\x00\x00\x00\x01\x00\x00\x00\x02" + id + "\x00\x00\x00\x00\x00\x00" + parts
+	}
+	for s, want := range map[string]int{
+		head("v", "\x01"): 16, head("w", "\x02"): 16, head("w", "\x02\x00"): 16, head("w", "\x02\x00\x00"): 22, head("w", "\x01"): 16, head("v", "\x00"): 16, head("v", "\x01\x00\x00\x00\x00"): -1, head("w", "\x02\x00\x00\x00\x00\x00\x00\x00\x01\x07"): -1,
+	} {
+		_, bad, e := stub.ReadQuestion(op, known, s, true, 0)
+		_, bad2, e2 := p.ReadQuestion(s, true, 0)
+		_, bad3, e3 := stub.ReadAnswer(op, known, s, true, 0)
+		_, bad4, e4 := p.ReadAnswer(s, true, 0)
+		if bad != want || (e == api.ErrData) != (want >= 0) || bad2 != bad || bad3 != bad || bad4 != bad || e2 != e || e3 != e || e4 != e {
+			t.Errorf("%q: %d %d %d %d", s, bad, bad2, bad3, bad4)
+		}
+		if want >= 0 {
+			want += 8
+		}
+		if _, _, bad, e := stub.ReadException(op, known, "\x00\x00\x00\x02x\x00\x00\x00"+s, true, 0); bad != want || (e == api.ErrData) != (want >= 0) {
+			t.Errorf("exception: %q: %d", s, bad)
+		}
+	}
+}
+
 // both asks that both roads read the same, or are wrong at the same place.
 func both(t *testing.T, op api.Op, known []api.Type, p *stub.Plan, b string, big bool, at int) {
 	t.Helper()
