@@ -12,6 +12,7 @@ import (
 const (
 	maxLine   = 200
 	maxNumber = 1000000000
+	maxPass   = 100000 // how far a line lets the time go on
 	maxBook   = 200000
 )
 
@@ -26,7 +27,7 @@ type command struct {
 	args    []api.Graph
 }
 
-// deed is what a line does, and its form: what stands behind its first word, a word (w), a number (n), 0, 1 or 2 (o) or numbers to the end (*).
+// deed is what a line does, and its form: what stands behind its first word, a word (w), a number (n), a time (t), 0, 1 or 2 (o) or numbers to the end (*).
 type deed struct {
 	form string
 	do   func(*Host, *command) string
@@ -34,7 +35,7 @@ type deed struct {
 
 func deeds() map[string]deed {
 	return map[string]deed{
-		"make": {"nw", (*Host).make}, "call": {"nnwo", (*Host).call}, "pass": {"n", (*Host).pass}, "result": {"n", (*Host).result},
+		"make": {"nw", (*Host).make}, "call": {"nnwo", (*Host).call}, "pass": {"t", (*Host).pass}, "result": {"n", (*Host).result},
 		"fall": {"n", (*Host).fall}, "rise": {"n", (*Host).rise}, "part": {"n*", (*Host).part}, "link": {"nnnnnn", (*Host).link},
 		"move": {"nn", (*Host).move}, "fields": {"n", (*Host).fields}, "ended": {"n", (*Host).ended},
 	}
@@ -53,6 +54,8 @@ func (c *command) put(word string, letter byte) bool {
 	case 'w':
 		c.words = append(c.words, word)
 		return word != ""
+	case 't':
+		most = maxPass
 	case 'o':
 		most = 2
 	}
