@@ -193,6 +193,7 @@ func TestSteps(t *testing.T) {
 	// Steps of the other side do not count.
 	for s, want := range map[string][2]bool{
 		"": {true, true}, "a 1\na 2\n": {true, true}, "a 1\nb 1\nb 2\na 3\n": {true, true}, "a 1\nb 1\na 2\nb 3\n": {false, true}, "a 1\n": {false, true}, "a 2\n": {false, true}, "a 1 failed\n": {true, true}, "a 1\na 2\na 2\n": {false, true}, "a 1\nb 1 failed\na 4\n": {true, true}, "a 6\n": {true, true},
+		"a 2\na 1\n": {false, true}, "a 1\nb 2\na 2\nb 1\n": {false, true}, "a 1\nb 2\nb 1\na 2\n": {false, true}, "b 4\na 1\nb 1\na 4\n": {false, true}, "a 1\na 2\nb 1\nb 2\n": {false, true}, "a 7\na 5\na 6\n": {true, false}, "a 5\nb 7\nb 5\na 6\nb 6\na 7\n": {true, false}, "a 5\nb 5\na 6\nb 6 failed\nb 8\na 8\n": {true, true},
 		"a 5\na 6\na 7\n": {true, true}, "a 5\nb 5 turned\na 9 failed\n": {true, true}, "a 5\nb 5 turned\nb 9\na 9\n": {true, false}, "a 5\n": {true, false}, "a 7\n": {true, false},
 	} {
 		l, e := Parse(s)
