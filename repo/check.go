@@ -284,6 +284,10 @@ func (c *checker) operation(e *entry, d *api.Decl) api.Op {
 		}
 		op.Params = append(op.Params, api.Param{Name: p.Name, Way: p.N, Type: t})
 	}
+	// The word raises stands before the names of exceptions.
+	if op.Oneway && len(d.Names) > 0 {
+		c.wrong(api.ErrKind)
+	}
 	op.Raises = c.raises(d)
 	return op
 }
@@ -298,7 +302,7 @@ func (c *checker) raises(d *api.Decl) []api.Type {
 			c.wrong(api.ErrName)
 		case slices.Contains(seen, x):
 			c.wrong(api.ErrDuplicate)
-		case x.kind != api.DExcept || d.Flag:
+		case x.kind != api.DExcept:
 			c.wrong(api.ErrKind)
 		case len(l) == api.MaxKids:
 			c.wrong(api.ErrLimit)
