@@ -81,8 +81,8 @@ func parse(s string) (api.Act, bool) {
 	a := api.Act{Text: unquoted(strings.TrimSuffix(text, `"`))}
 	a.Node, _ = strconv.Atoi(l[0])
 	number, _ := strconv.Atoi(l[2])
-	for kind, word := range words {
-		if kind == 0 || word != l[1] {
+	for kind := alone; kind <= ends; kind++ {
+		if words[kind] != l[1] {
 			continue
 		}
 		a.Kind = kind

@@ -3,7 +3,6 @@ package idl
 import (
 	"math"
 	"math/bits"
-	"slices"
 	"strconv"
 	"strings"
 
@@ -11,11 +10,11 @@ import (
 )
 
 // levels are the operators of two sides, from those that bind least on.
-var levels = [6][3]string{{"|"}, {"^"}, {"&"}, {"<<", ">>"}, {"+", "-"}, {"*", "/", "%"}}
+var levels = [signed][3]string{{"|"}, {"^"}, {"&"}, {"<<", ">>"}, {"+", "-"}, {"*", "/", "%"}}
 
 // The levels of signs before an operand, and of what has no operators.
 const (
-	signed = len(levels)
+	signed = 6
 	alone  = signed + 1
 )
 
@@ -25,6 +24,16 @@ type node struct {
 	level       int
 	left, right *node
 	sort        int
+}
+
+// isOf reports whether a word is an operator of a level.
+func isOf(level int, word string) bool {
+	for i := range len(levels[level]) {
+		if word != "" && levels[level][i] == word {
+			return true
+		}
+	}
+	return false
 }
 
 // expr reads an expression; directly within < > the word >> is no operator.
@@ -39,7 +48,7 @@ func (r *reader) binary(level int, direct bool) *node {
 	left := r.binary(level+1, direct)
 	for {
 		op := r.words[r.at].text
-		if op == "" || !slices.Contains(levels[level][:], op) || op == ">>" && direct {
+		if !isOf(level, op) || op == ">>" && direct {
 			return left
 		}
 		r.at++

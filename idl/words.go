@@ -2,7 +2,6 @@ package idl
 
 import (
 	"iter"
-	"slices"
 	"strconv"
 	"strings"
 
@@ -30,10 +29,14 @@ type word struct {
 	line int
 }
 
-// kept are the words that are no names.
-var kept = [...]string{
-	"module", "interface", "struct", "exception", "union", "switch", "case", "default", "enum", "typedef", "const", "valuetype", "truncatable", "oneway", "readonly", "attribute", "in", "out", "inout", "raises", "version",
-	"void", "boolean", "octet", "char", "short", "long", "huge", "string", "fixed", "sequence", "array", "any", "type", "Object",
+// isKept reports whether a word is no name.
+func isKept(word string) bool {
+	switch word {
+	case "module", "interface", "struct", "exception", "union", "switch", "case", "default", "enum", "typedef", "const", "valuetype", "truncatable", "oneway", "readonly", "attribute", "in", "out", "inout", "raises", "version",
+		"void", "boolean", "octet", "char", "short", "long", "huge", "string", "fixed", "sequence", "array", "any", "type", "Object":
+		return true
+	}
+	return false
 }
 
 func isLetter(c byte) bool { return c >= 'a' && c <= 'z' || c >= 'A' && c <= 'Z' }
@@ -58,7 +61,7 @@ func wordAt(s string, i int) (text string, sort int) {
 	case isLetter(c):
 		text = s[i:run(s, i, inWord)]
 		switch {
-		case slices.Contains(kept[:], text):
+		case isKept(text):
 			return text, aKept
 		case len(text) > api.MaxName:
 			return text, noWord

@@ -116,8 +116,8 @@ func (r *reader) value(from int) int {
 // word takes the word with which a type begins: it is wrong where no word goes on.
 func (r *reader) word() int {
 	most := 0
-	for kind, word := range words {
-		n := 0
+	for kind := range len(words) {
+		word, n := words[kind], 0
 		for n < len(word) && strings.HasPrefix(r.s[r.at:], word[:n+1]) {
 			n++
 		}

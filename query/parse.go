@@ -1,7 +1,6 @@
 package query
 
 import (
-	"slices"
 	"strings"
 
 	"intermede/api"
@@ -14,8 +13,14 @@ const (
 	maxFroms = 3
 )
 
-// kept are the words of the language.
-var kept = [...]string{"select", "as", "from", "where", "order", "by", "up", "down", "first", "or", "and", "not", "has", "true", "false", "null", "count", "sum", "least", "greatest"}
+// isKept reports whether a word is one of the language.
+func isKept(word string) bool {
+	switch word {
+	case "select", "as", "from", "where", "order", "by", "up", "down", "first", "or", "and", "not", "has", "true", "false", "null", "count", "sum", "least", "greatest":
+		return true
+	}
+	return false
+}
 
 // levels are the operators of two sides, from those that bind least on; the sign not stands between and and the comparisons. What begins another one comes behind it.
 func levels() [][]string {
@@ -101,7 +106,7 @@ func (p *parser) name() string {
 	}
 	p.try(min(n, api.MaxName))
 	s := p.text[p.at : p.at+n]
-	if !isName(s) || slices.Contains(kept[:], s) {
+	if !isName(s) || isKept(s) {
 		p.fail()
 	}
 	p.pass(n)

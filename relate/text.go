@@ -1,7 +1,6 @@
 package relate
 
 import (
-	"slices"
 	"strconv"
 	"strings"
 
@@ -101,7 +100,14 @@ func (r *reader) role(words []string) (string, bool) {
 }
 
 // how returns the number of a word, or 0.
-func how(word string) int { return max(0, slices.Index(hows[:], word)) }
+func how(word string) int {
+	for n := deep; n <= none; n++ {
+		if hows[n] == word {
+			return n
+		}
+	}
+	return 0
+}
 
 func (r *reader) numbers(words []string) (string, bool) {
 	object, _ := strconv.Atoi(words[1])

@@ -1,7 +1,6 @@
 package repo
 
 import (
-	"slices"
 	"strconv"
 	"strings"
 
@@ -70,9 +69,19 @@ func (c *checker) typeOf(text string, tag bool) (api.Type, *entry) {
 // basics are the types of one word, by kinds.
 var basics = [api.TType + 1]string{api.TVoid: "void", api.TBool: "boolean", api.TOctet: "octet", api.TChar: "char", api.TShort: "short", api.TLong: "long", api.THuge: "huge", api.TAny: "any", api.TType: "type"}
 
+// basic returns the kind that one word tells.
+func basic(word string) (int, bool) {
+	for k := range len(basics) {
+		if basics[k] != "" && basics[k] == word {
+			return k, true
+		}
+	}
+	return 0, false
+}
+
 func (r *typeReader) read() api.Type {
 	word := r.words[r.at]
-	if k := slices.Index(basics[:], word); k >= 0 {
+	if k, there := basic(word); there {
 		r.at++
 		return api.Type{Kind: k}
 	}

@@ -2,7 +2,6 @@
 package trader
 
 import (
-	"slices"
 	"strconv"
 	"strings"
 
@@ -23,8 +22,14 @@ const (
 	maxNumber = 1000000000000000
 )
 
-// kept are the words that are no names of properties.
-var kept = [...]string{"and", "or", "not", "exist", "true", "false", "min", "max", "with", "first"}
+// isKept reports whether a word is no name of properties.
+func isKept(word string) bool {
+	switch word {
+	case "and", "or", "not", "exist", "true", "false", "min", "max", "with", "first":
+		return true
+	}
+	return false
+}
 
 func isSmall(c byte) bool { return c >= 'a' && c <= 'z' }
 
@@ -46,7 +51,7 @@ func isName(s string) bool {
 }
 
 // isPropName reports whether a text is a name of properties.
-func isPropName(s string) bool { return isName(s) && !slices.Contains(kept[:], s) }
+func isPropName(s string) bool { return isName(s) && !isKept(s) }
 
 // ValidProp reports whether a property is valid.
 func ValidProp(p api.Prop) bool {

@@ -1,8 +1,6 @@
 package tree
 
 import (
-	"slices"
-
 	"intermede/api"
 	"intermede/idl"
 )
@@ -160,7 +158,7 @@ func (r *reader) declared() (name, typ string) {
 	end := r.at
 	wrong := -1 // the line of the first word that is kept here
 	for ; r.words[end].sort < noWord && r.words[end].text != ";"; end++ {
-		if w := r.words[end]; wrong < 0 && slices.Contains(kept[:], w.text) {
+		if w := r.words[end]; wrong < 0 && isKept(w.text) {
 			wrong = w.line
 		}
 	}

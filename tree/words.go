@@ -1,7 +1,6 @@
 package tree
 
 import (
-	"slices"
 	"strings"
 
 	"intermede/api"
@@ -28,8 +27,14 @@ type word struct {
 	line int
 }
 
-// kept are the words that are no names, besides those of layer 7.
-var kept = [...]string{"class", "of", "field", "op", "var", "return", "raise", "call", "if", "else", "while", "try", "catch", "or", "and", "not", True, False, Nil, Self}
+// isKept reports whether a word is no name, besides those of layer 7.
+func isKept(word string) bool {
+	switch word {
+	case "class", "of", "field", "op", "var", "return", "raise", "call", "if", "else", "while", "try", "catch", "or", "and", "not", True, False, Nil, Self:
+		return true
+	}
+	return false
+}
 
 func inWord(c byte) bool {
 	return c >= 'a' && c <= 'z' || c >= 'A' && c <= 'Z' || c >= '0' && c <= '9' || c == '_'
@@ -46,7 +51,7 @@ func run(s string, i int, in func(byte) bool) int {
 // isName reports whether a text is a name: layer 7 takes it as a path.
 func isName(s string) bool {
 	_, l, e := idl.Split(s)
-	return e == api.OK && len(l) == 1 && l[0] == s && !slices.Contains(kept[:], s)
+	return e == api.OK && len(l) == 1 && l[0] == s && !isKept(s)
 }
 
 // isOne reports whether a text is just one word of layer 7.
