@@ -259,11 +259,8 @@ func (c *checker) operation(e *entry, d *api.Decl) api.Op {
 	op := api.Op{Name: d.Name, Oneway: d.Flag}
 	answers := 0
 	if d.Type != "void" {
-		op.Result = c.typ(d.Type)
+		op.Result, _ = c.typeOf(d.Type, func(int) bool { return !op.Oneway })
 		answers++
-		if op.Oneway {
-			c.wrong(api.ErrKind)
-		}
 	}
 	c.opName(e, d)
 	seen := map[string]bool{}
@@ -348,11 +345,8 @@ func (c *checker) union(d *api.Decl) {
 	c.at = c.path(d.Name)
 	t := api.Type{Kind: api.TUnion, ID: c.named(d.Name), Name: d.Name, N: -1}
 	e, i := c.begin(d.Kind, d.Name, t.ID)
-	tag, _ := c.typeOf(d.Type, true)
+	tag, _ := c.typeOf(d.Type, func(kind int) bool { return kind >= api.TBool && kind <= api.TLong || kind == api.TEnum })
 	tag = bareType(tag)
-	if (tag.Kind < api.TBool || tag.Kind > api.TLong) && tag.Kind != api.TEnum {
-		c.wrong(api.ErrKind)
-	}
 	t.Kids = []api.Type{tag}
 	in := c.in(e)
 	seen := map[int]bool{}
@@ -416,7 +410,7 @@ func (c *checker) enum(d *api.Decl) {
 
 func (c *checker) alias(d *api.Decl) {
 	c.at = c.path(d.Name)
-	of, names := c.typeOf(d.Type, false)
+	of, names := c.typeOf(d.Type, nil)
 	t := api.Type{Kind: api.TAlias, ID: c.named(d.Name), Name: d.Name, Kids: []api.Type{of}}
 	e, i := c.begin(d.Kind, d.Name, t.ID)
 	e.inner, e.of = nil, names
@@ -425,12 +419,9 @@ func (c *checker) alias(d *api.Decl) {
 
 func (c *checker) constant(d *api.Decl) {
 	c.at = c.path(d.Name)
-	t := c.typ(d.Type)
+	t, _ := c.typeOf(d.Type, func(kind int) bool { return kind >= api.TBool && kind <= api.TEnum })
 	b := bareType(t)
 	value := api.Data{Kind: b.Kind}
-	if b.Kind < api.TBool || b.Kind > api.TEnum {
-		c.wrong(api.ErrKind)
-	}
 	id := c.named(d.Name)
 	switch b.Kind {
 	case api.TText:

@@ -44,21 +44,21 @@ type typeReader struct {
 	*checker
 	words []string
 	at    int
-	seqs  int    // sequences around
-	names *entry // what the type is, if it is a path alone
-	tag   bool   // a union's tag is asked
+	seqs  int                 // sequences around
+	names *entry              // what the type is, if it is a path alone
+	right func(kind int) bool // which kinds may stand here, without aliases; nil: all
 }
 
 // typ reads a type that is written in a scope.
 func (c *checker) typ(text string) api.Type {
-	t, _ := c.typeOf(text, false)
+	t, _ := c.typeOf(text, nil)
 	return t
 }
 
-// typeOf reads a type, and tells what is named if it is a path alone.
-func (c *checker) typeOf(text string, tag bool) (api.Type, *entry) {
+// typeOf reads a type of some kinds, and tells what is named if it is a path alone.
+func (c *checker) typeOf(text string, right func(kind int) bool) (api.Type, *entry) {
 	words, _, _ := idl.Words(text)
-	r := &typeReader{checker: c, words: words, tag: tag}
+	r := &typeReader{checker: c, words: words, right: right}
 	t := r.read()
 	if tooLarge(&t) {
 		c.wrong(api.ErrLimit)
@@ -79,17 +79,28 @@ func basic(word string) (int, bool) {
 	return 0, false
 }
 
+// ask asks for the kind of the whole type: its first word tells it, ahead of what is wrong behind.
+func (r *typeReader) ask(kind int) {
+	if r.right != nil && !r.right(kind) {
+		r.wrong(api.ErrKind)
+	}
+	r.right = nil
+}
+
 func (r *typeReader) read() api.Type {
 	word := r.words[r.at]
 	if k, there := basic(word); there {
+		r.ask(k)
 		r.at++
 		return api.Type{Kind: k}
 	}
 	switch word {
 	case "Object":
+		r.ask(api.TObject)
 		r.at++
 		return api.Type{Kind: api.TObject, ID: objectID, Name: "Object"}
 	case "string":
+		r.ask(api.TText)
 		r.at++
 		t := api.Type{Kind: api.TText}
 		if r.at < len(r.words) && r.words[r.at] == "<" {
@@ -97,6 +108,7 @@ func (r *typeReader) read() api.Type {
 		}
 		return t
 	case "fixed":
+		r.ask(api.TFixed)
 		r.at++
 		t := api.Type{Kind: api.TFixed, N: r.bound(1, api.MaxDigits)}
 		t.M = r.bound(0, t.N)
@@ -113,6 +125,7 @@ func (r *typeReader) elements(sequence bool) api.Type {
 		t.Kind = api.TSeq
 		r.seqs++
 	}
+	r.ask(t.Kind)
 	r.at += 2
 	t.Kids = []api.Type{r.read()}
 	r.names = nil
@@ -169,11 +182,10 @@ func (r *typeReader) readPath() api.Type {
 	r.names = e
 	switch e.kind {
 	case api.DEnum, api.DAlias:
+		r.ask(bareType(e.t).Kind)
 		return copies.Type(e.t)
 	case api.DInterface, api.DStruct, api.DUnion, api.DValue:
-		if r.tag {
-			r.wrong(api.ErrKind)
-		}
+		r.ask(api.TStruct) // where not all kinds may stand none of these may
 	default:
 		r.wrong(api.ErrKind)
 	}
