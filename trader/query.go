@@ -88,14 +88,16 @@ type question struct {
 	by         rank
 }
 
-// asks reads what is asked of offers.
+// asks reads what is asked of offers: each error is asked of both texts, before the next one.
 func asks(kind, constraint, pref string) (question, api.Errno) {
 	n, e := read(constraint)
-	if e != api.OK {
-		return question{}, e
+	by, e2 := preference(pref)
+	for _, wrong := range [...]api.Errno{api.ErrLong, api.ErrSyntax, api.ErrLimit} {
+		if e == wrong || e2 == wrong {
+			return question{}, wrong
+		}
 	}
-	by, e := preference(pref)
-	return question{kind, n, by}, e
+	return question{kind, n, by}, api.OK
 }
 
 // Query returns the offers of a type that fit.

@@ -310,7 +310,7 @@ func TestQuery(t *testing.T) {
 		most                         int
 		want                         string
 		e                            api.Errno
-	}{{"thing", "", "", 9, "123", 0}, {"printer", "", "", 9, "23", 0}, {"laser", "", "", 9, "3", 0}, {"thing", "cost > 2", "max cost", 9, "32", 0}, {"thing", "", "max cost", 9, "321", 0}, {"thing", "", "max cost", 2, "32", 0}, {"thing", "", "", 0, "", 0}, {"thing", "", "", -1, "", api.ErrRange}, {"q", "", "", 1, "", api.ErrName}, {"q", "", "x", -1, "", api.ErrSyntax}, {"q", "(", "", 1, "", api.ErrSyntax}, {"q", "", "", -1, "", api.ErrRange}, {"Q", "(", "", 1, "", api.ErrInvalid}} {
+	}{{"thing", "", "", 9, "123", 0}, {"printer", "", "", 9, "23", 0}, {"laser", "", "", 9, "3", 0}, {"thing", "cost > 2", "max cost", 9, "32", 0}, {"thing", "", "max cost", 9, "321", 0}, {"thing", "", "max cost", 2, "32", 0}, {"thing", "", "", 0, "", 0}, {"thing", "", "", -1, "", api.ErrRange}, {"thing", "(", strings.Repeat(" ", 2001), -1, "", api.ErrLong}, {"thing", strings.Repeat("(", 41) + "true" + strings.Repeat(")", 41), "min (", -1, "", api.ErrSyntax}, {"thing", "(", "min " + strings.Repeat("-", 41) + "1", -1, "", api.ErrSyntax}, {"thing", strings.Repeat("(", 41) + "true" + strings.Repeat(")", 41), "first", -1, "", api.ErrLimit}, {"thing", "", "with " + strings.Repeat("not ", 41) + "true", -1, "", api.ErrLimit}, {"q", "", "", 1, "", api.ErrName}, {"q", "", "x", -1, "", api.ErrSyntax}, {"q", "(", "", 1, "", api.ErrSyntax}, {"q", "", "", -1, "", api.ErrRange}, {"Q", "(", "", 1, "", api.ErrInvalid}} {
 		if l, e := x.Query(c.kind, c.constraint, c.preference, c.most); ids(l) != c.want || e != c.e {
 			t.Error(i, ids(l), e)
 		}
