@@ -70,6 +70,9 @@ func (r *Run) set(name string, v value) {
 	r.touched = true
 }
 
+// isNone reports whether a run is nil, or one that no servant began.
+func (r *Run) isNone() bool { return r == nil || r.object == nil }
+
 // State returns the state.
 func (r *Run) State() int {
 	if r == nil {
@@ -103,7 +106,7 @@ func (r *Run) system(name string) api.Outcome {
 
 // Cancel ends a run.
 func (r *Run) Cancel() {
-	if r != nil && r.state != Done {
+	if !r.isNone() && r.state != Done {
 		r.finish(api.Outcome{State: api.SSystem, ID: "cancelled", Done: api.DoneMaybe})
 	}
 }
@@ -141,7 +144,7 @@ func (r *Run) settle() {
 
 // Go lets a run go on for at most so many steps.
 func (r *Run) Go(steps int) (state int, c Call, o api.Outcome) {
-	if r == nil {
+	if r.isNone() {
 		return Done, Call{}, api.Outcome{}
 	}
 	take := func() bool {

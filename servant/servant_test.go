@@ -327,6 +327,11 @@ func TestBegin(t *testing.T) {
 	if _, e := none.Begin("x", nil); e != api.ErrInvalid || none.Set("x", api.Graph{}) != api.ErrInvalid || none.Restore("") != api.ErrInvalid || none.Text() != "" || none.Runs() != 0 || none.Class() != "" || none.Fields() != nil || run.Tell(api.Outcome{}) != api.ErrInvalid || run.State() != 0 || run.Used() != 0 || state != Done || !reflect.DeepEqual(o, api.Outcome{}) {
 		t.Error("nil")
 	}
+	empty := &Run{}
+	empty.Cancel()
+	if state, _, o := empty.Go(1); state != Done || !reflect.DeepEqual(o, api.Outcome{}) || empty.Tell(api.Outcome{}) != api.ErrState {
+		t.Error("a run that no servant began", state, o)
+	}
 }
 
 func TestNew(t *testing.T) {
