@@ -87,7 +87,7 @@ func (b *builder) decl(i int) (api.Decl, int) {
 		}
 		b.ops(&d, def.Ops)
 	case api.DStruct, api.DExcept:
-		d.Kids = b.members(def.Type.Names, def.Type.Kids)
+		b.structure(&d, &def.Type)
 	case api.DUnion:
 		b.union(&d, &def.Type)
 	case api.DEnum:
@@ -155,6 +155,12 @@ func (b *builder) members(names []string, kids []api.Type) []api.Decl {
 		l = append(l, api.Decl{Kind: api.DMember, Name: name, Type: b.typ(&kids[i])})
 	}
 	return l
+}
+
+func (b *builder) structure(d *api.Decl, t *api.Type) {
+	if b.bad = b.bad || t.Kind != api.TStruct && t.Kind != api.TExcept; !b.bad {
+		d.Kids = b.members(t.Names, t.Kids)
+	}
 }
 
 func (b *builder) union(d *api.Decl, t *api.Type) {

@@ -2,6 +2,7 @@ package repo
 
 import (
 	"reflect"
+	"slices"
 	"strings"
 	"testing"
 
@@ -301,6 +302,33 @@ func TestValid(t *testing.T) {
 			}
 		}
 		changes(t, defs)
+	}
+}
+
+// TestOtherTypes asks that no definition is valid with the kind or the type of one of another kind.
+func TestOtherTypes(t *testing.T) {
+	defs, _, _, e := Read("enum E { A, B }; struct S { long a; }; union U switch (E) { case A: long x; }; typedef E T; const E C = B; exception X { long a; }; valuetype V { long a; }; interface I {}; exception Y {}; valuetype W {};")
+	if e != api.OK || !Valid(defs) {
+		t.Fatal(e)
+	}
+	types := []api.Type{{}, {Kind: api.TText, N: 3}, {Kind: api.TSeq, Kids: []api.Type{{Kind: api.TLong}}}}
+	for _, d := range defs {
+		types = append(types, d.Type)
+	}
+	for i, d := range defs {
+		for kind := range api.DVersion + 2 {
+			l := slices.Clone(defs)
+			l[i].Kind = kind
+			if Valid(l) != (kind == d.Kind) {
+				t.Error(d.Path, kind)
+			}
+			for j, x := range types {
+				l[i].Type = x
+				if Valid(l) && kind != d.Kind {
+					t.Error(d.Path, kind, j)
+				}
+			}
+		}
 	}
 }
 

@@ -353,7 +353,7 @@ func TestNew(t *testing.T) {
 		c    *script.Class
 		self string
 		want api.Errno
-	}{{[]api.Def{{}}, l[0], "", api.ErrInvalid}, {defs(t), nil, "", api.ErrInvalid}, {defs(t), l[0], "a\n", api.ErrInvalid}, {defs(t), l[0], strings.Repeat("a", 1001), api.ErrInvalid}, {other, l[0], "", api.ErrInvalid}} {
+	}{{[]api.Def{{}}, l[0], "", api.ErrInvalid}, {defs(t), nil, "", api.ErrInvalid}, {defs(t), &script.Class{}, "", api.ErrInvalid}, {defs(t), l[0], "a\n", api.ErrInvalid}, {defs(t), l[0], strings.Repeat("a", 1001), api.ErrInvalid}, {other, l[0], "", api.ErrInvalid}} {
 		if s, e := New(c.defs, c.c, c.self); e != c.want || s != nil {
 			t.Error(i, e)
 		}
