@@ -30,7 +30,8 @@ func (s *Source) Graph(t api.Type, known []api.Type) api.Graph {
 		for i := 0; i < len(m.g.Nodes); i++ {
 			n := m.types[i]
 			for _, kid := range n.Kids {
-				m.g.Nodes[i].Kids = append(m.g.Nodes[i].Kids, m.data(kid, &scope{t: n}, 3))
+				d := m.data(kid, &scope{t: n}, 3) // it may make nodes
+				m.g.Nodes[i].Kids = append(m.g.Nodes[i].Kids, d)
 			}
 		}
 		if m.parts <= 400 {
