@@ -9,41 +9,51 @@ import (
 
 const maxEdges = 1000
 
-// waitsFor returns the owners for which an owner waits, each once.
-func (s *Sets) waitsFor(number int) []int {
+// waitsFor returns the owners for which an owner waits: of those before it in the line from an index on. It tells the owner's own index, too.
+func (s *Sets) waitsFor(number, from int) (l []int, place int) {
 	o := s.owners[number]
-	if !o.waits {
-		return nil
-	}
 	line := s.sets[o.set].line
-	place := slices.IndexFunc(line, func(w waiter) bool { return w.owner == number })
-	var l []int
+	place = slices.IndexFunc(line, func(w waiter) bool { return w.owner == number })
 	for other := range s.clashing(number, o.set, line[place].mode) {
 		l = append(l, other)
 	}
 	if !s.isHolder(number, o.set) {
-		for _, w := range line[:place] {
-			l = append(l, w.owner)
+		for ; from < place; from++ {
+			l = append(l, line[from].owner)
 		}
 	}
-	slices.Sort(l)
-	return slices.Compact(l)
+	return l, place
 }
 
 // WaitsFor returns the owners for which an owner waits.
 func (s *Sets) WaitsFor(owner int) ([]int, api.Errno) {
-	if _, e := s.find(owner); e != api.OK {
+	o, e := s.find(owner)
+	if e != api.OK || !o.waits {
 		return nil, e
 	}
-	return s.waitsFor(owner), api.OK
+	l, _ := s.waitsFor(owner, 0)
+	slices.Sort(l)
+	return slices.Compact(l), api.OK
 }
 
 // inCircle reports whether an owner waits for itself; an owner waits for its children, too, since it does not go on before them.
 func (s *Sets) inCircle(start int) bool {
 	seen := map[int]bool{}
+	passed := map[int]int{} // how many of each line, from its front, were followed
+	steps := func(at int) []int {
+		o := s.owners[at]
+		if !o.waits {
+			return o.children
+		}
+		l, place := s.waitsFor(at, passed[o.set])
+		if !s.isHolder(at, o.set) {
+			passed[o.set] = max(passed[o.set], place)
+		}
+		return append(l, o.children...)
+	}
 	var leads func(at int) bool
 	leads = func(at int) bool {
-		for _, next := range append(s.waitsFor(at), s.owners[at].children...) {
+		for _, next := range steps(at) {
 			if next == start {
 				return true
 			}
