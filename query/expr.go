@@ -183,11 +183,11 @@ func (n *node) show(b *strings.Builder) {
 	}
 }
 
-// deep returns how deep an expression is nested in signs, parentheses, and sum and its like, at a place where only operators of a level, and those that bind more strongly, stand without parentheses. The pair that Show writes around an operator counts only at a place that asks for it: so Show's text is nested no deeper than the text.
+// deep returns how deep an expression is nested in signs, parentheses, and sum and its like, at a place where only operators of a level, and those that bind more strongly, stand without parentheses. A pair by itself, as Show writes it around each operator, counts only at a place that asks for it: so Show's text is nested no deeper than the text.
 func (n *node) deep(level int) int {
 	deep := n.pairs
-	if n.op != "" && !n.whole && n.pairs > 0 && n.level >= level {
-		deep--
+	if n.op != "" && !n.whole && n.pairs == 1 && n.level >= level {
+		deep = 0
 	}
 	switch {
 	case n.left == nil:
