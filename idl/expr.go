@@ -36,9 +36,13 @@ func isOf(level int, word string) bool {
 	return false
 }
 
-// expr reads an expression; directly within < > the word >> is no operator.
+// expr reads an expression; directly within < > the word >> is no operator. What would be written with too many levels of parentheses has too many, as it could not be read again.
 func (r *reader) expr(direct bool) *node {
-	return r.binary(0, direct)
+	n := r.binary(0, direct)
+	if r.parens == 0 {
+		r.over = r.over || n.sideLevels(false, direct) > maxLevels
+	}
+	return n
 }
 
 func (r *reader) binary(level int, direct bool) *node {
@@ -103,6 +107,24 @@ func (n *node) side(b *strings.Builder, needed, direct bool) {
 	b.WriteByte('(')
 	n.show(b, false)
 	b.WriteByte(')')
+}
+
+// levels tells how many levels of parentheses show writes.
+func (n *node) levels(direct bool) int {
+	switch {
+	case n.level == alone:
+		return 0
+	case n.level == signed:
+		return n.left.sideLevels(n.left.level <= signed, direct)
+	}
+	return max(n.left.sideLevels(n.left.level < n.level, direct), n.right.sideLevels(n.right.level <= n.level, direct))
+}
+
+func (n *node) sideLevels(needed, direct bool) int {
+	if !needed && !(direct && n.op == ">>") {
+		return n.levels(direct)
+	}
+	return 1 + n.levels(false)
 }
 
 // text returns the canonical form of an expression.

@@ -120,6 +120,18 @@ func TestLimits(t *testing.T) {
 	if _, e := Type(nest(10, "sequence<", "long", ">")); e != api.ErrLimit {
 		t.Error(e)
 	}
+	// A sign before a sign is written in parentheses: what could not be read again is too deep.
+	for signs, want := range map[int]api.Errno{2: 0, 11: 0, 12: api.ErrLimit, 60: api.ErrLimit} {
+		x := strings.Repeat("-", signs) + "1"
+		form, e := Expr(x)
+		again, e2 := Expr(form)
+		_, e3 := Value(x, nil, nil)
+		_, e4 := Type("sequence<long," + x + ">")
+		l, _, e5 := Parse("const long C = 2 * " + x + ";")
+		if e != want || e3 != want || e4 != want || e5 != want || want == api.OK && (e2 != api.OK || again != form || !Valid(l)) {
+			t.Error(signs, e, e2, e3, e4, e5)
+		}
+	}
 	if _, e := Paths(nest(10, "sequence<", "A", ">")); e != api.ErrLimit {
 		t.Error(e)
 	}
